@@ -1,23 +1,27 @@
 package planar
 
-import "slices"
+import (
+	"slices"
+
+	"olivette/sets"
+)
 
 // block is a part of a graph that is being drawn: it begins as a circle, and grows by paths that divide its faces (by the way of Demoucron, Malgrange and Pertuiset). In the end it is a bridge alone, or all that no removal of one vertex divides.
 type block struct {
 	rest  graph // the edges that are not drawn
-	drawn set
+	drawn sets.Set
 	faces []face
 }
 
 // face is a face that comes to no vertex twice, as is each of a block with more than one edge.
 type face struct {
 	circle []int
-	on     set
+	on     sets.Set
 }
 
 // piece is what hangs together of the edges that are not drawn: a single one, with inside empty, or all those at the vertices of inside, which are not drawn.
 type piece struct {
-	inside, contacts set
+	inside, contacts sets.Set
 }
 
 // planeRotation returns a plane rotation of the graph, or false if it has none.
@@ -26,7 +30,7 @@ func planeRotation(g graph) ([][]int, bool) {
 	rotation := make([][]int, len(g))
 	for u := range rest {
 		for rest[u] != 0 {
-			b := beginBlock(rest, u, rest[u].least())
+			b := beginBlock(rest, u, rest[u].Least())
 			if !b.finish() {
 				return nil, false
 			}
@@ -40,11 +44,11 @@ func planeRotation(g graph) ([][]int, bool) {
 // beginBlock draws a circle with the edge from u to v, or the edge alone if no circle has it. It removes from rest all that it draws.
 func beginBlock(rest graph, u, v int) *block {
 	rest.separate(u, v)
-	circle := rest.path(v, rest.vertices(), only(u))
+	circle := rest.path(v, rest.vertices(), sets.Only(u))
 	if circle == nil {
 		circle = []int{u, v}
 	}
-	b := &block{rest: rest, drawn: setOf(circle)}
+	b := &block{rest: rest, drawn: sets.Of(circle)}
 	b.removePath(circle)
 	b.addFace(circle)
 	if len(circle) > 2 {
@@ -62,7 +66,7 @@ func (b *block) removePath(path []int) {
 }
 
 func (b *block) addFace(circle []int) {
-	b.faces = append(b.faces, face{circle: circle, on: setOf(circle)})
+	b.faces = append(b.faces, face{circle: circle, on: sets.Of(circle)})
 }
 
 // finish draws all the rest of the block, or returns false if that can't be done.
@@ -102,20 +106,16 @@ func (b *block) tightest() (piece, []int) {
 // pieces returns the pieces that hang on the drawn vertices in at least two places. Others belong to other blocks.
 func (b *block) pieces() []piece {
 	var list []piece
-	for u := range b.drawn.all() {
-		for v := range (b.rest[u] & b.drawn).all() {
+	for u := range b.drawn.All() {
+		for v := range (b.rest[u] & b.drawn).All() {
 			if u < v {
-				list = append(list, piece{contacts: only(u) | only(v)})
+				list = append(list, piece{contacts: sets.Only(u) | sets.Only(v)})
 			}
 		}
 	}
 	for inside := range b.rest.groups(b.rest.vertices() &^ b.drawn) {
-		var near set
-		for v := range inside.all() {
-			near |= b.rest[v]
-		}
-		contacts := near & b.drawn
-		if contacts.size() > 1 {
+		contacts := sets.Near(b.rest, inside) & b.drawn
+		if contacts.Size() > 1 {
 			list = append(list, piece{inside, contacts})
 		}
 	}
@@ -124,13 +124,13 @@ func (b *block) pieces() []piece {
 
 // path returns a path through the piece from one contact to another.
 func (p piece) path(rest graph) []int {
-	from := p.contacts.least()
-	ends := p.contacts &^ only(from)
+	from := p.contacts.Least()
+	ends := p.contacts &^ sets.Only(from)
 	if p.inside == 0 {
-		return []int{from, ends.least()}
+		return []int{from, ends.Least()}
 	}
 	// An edge between two contacts is a piece of its own: the path must begin inside.
-	second := (rest[from] & p.inside).least()
+	second := (rest[from] & p.inside).Least()
 	return append([]int{from}, rest.path(second, p.inside, ends)...)
 }
 
@@ -148,7 +148,7 @@ func (b *block) divide(room int, path []int) {
 	b.addFace(slices.Concat(path, circle[end+1:]))
 	b.addFace(slices.Concat(back, circle[1:end]))
 	b.removePath(path)
-	b.drawn |= setOf(path)
+	b.drawn |= sets.Of(path)
 }
 
 // addTurns adds the neighbors in the block to the lists of its vertices, in the order in which the faces have them.
@@ -162,7 +162,7 @@ func (b *block) addTurns(rotation [][]int) {
 			after[arc{v, f.circle[(i+n-1)%n]}] = first[v]
 		}
 	}
-	for v := range b.drawn.all() {
+	for v := range b.drawn.All() {
 		rotation[v] = append(rotation[v], first[v])
 		for u := after[arc{v, first[v]}]; u != first[v]; u = after[arc{v, u}] {
 			rotation[v] = append(rotation[v], u)

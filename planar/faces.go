@@ -5,6 +5,7 @@ import (
 	"slices"
 
 	"olivette/api"
+	"olivette/sets"
 )
 
 // arc is an edge with a direction.
@@ -76,15 +77,15 @@ func isRotation(g graph, rotation [][]int) bool {
 	}
 	for v, list := range rotation {
 		// A list of that length that has no vertex twice has them all.
-		if len(list) != g[v].size() {
+		if len(list) != g[v].Size() {
 			return false
 		}
 		left := g[v]
 		for _, u := range list {
-			if !g.hasVertex(u) || !left.has(u) {
+			if !left.Has(u) {
 				return false
 			}
-			left &^= only(u)
+			left &^= sets.Only(u)
 		}
 	}
 	return true
@@ -98,11 +99,11 @@ func isPlane(g graph, rotation [][]int) bool {
 	}
 	for group := range g.groups(g.vertices()) {
 		ends, count := 0, 0
-		for v := range group.all() {
-			ends += g[v].size()
+		for v := range group.All() {
+			ends += g[v].Size()
 			count += facesFrom[v]
 		}
-		if group.size() > 1 && group.size()-ends/2+count != 2 {
+		if group.Size() > 1 && group.Size()-ends/2+count != 2 {
 			return false
 		}
 	}
@@ -147,7 +148,7 @@ func nextOnes(rotation [][]int) map[arc]arc {
 func arcs(rotation [][]int) []arc {
 	var list []arc
 	for u, neighbors := range rotation {
-		for v := range setOf(neighbors).all() {
+		for v := range sets.Of(neighbors).All() {
 			list = append(list, arc{u, v})
 		}
 	}

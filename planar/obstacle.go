@@ -1,6 +1,10 @@
 package planar
 
-import "slices"
+import (
+	"slices"
+
+	"olivette/sets"
+)
 
 // obstacleIn returns an obstacle in g, which is not planar: what is left of its edges when all that can be spared are removed.
 func obstacleIn(g graph, edges [][2]int) []int {
@@ -33,12 +37,12 @@ func isObstacle(n int, edges [][2]int, positions []int) bool {
 // shorten replaces each vertex that has two edges by one edge. It returns false if two vertices are to be joined twice: these edges stay two, or end as a circle of their own.
 func shorten(g graph) bool {
 	for v := range g {
-		if g[v].size() != 2 {
+		if g[v].Size() != 2 {
 			continue
 		}
-		u := g[v].least()
-		w := (g[v] &^ only(u)).least()
-		if g[u].has(w) {
+		u := g[v].Least()
+		w := (g[v] &^ sets.Only(u)).Least()
+		if g[u].Has(w) {
 			return false
 		}
 		g.separate(v, u)
@@ -49,11 +53,11 @@ func shorten(g graph) bool {
 }
 
 // joined returns the vertices that have an edge.
-func (g graph) joined() set {
-	var s set
+func (g graph) joined() sets.Set {
+	var s sets.Set
 	for v, near := range g {
 		if near != 0 {
-			s |= only(v)
+			s |= sets.Only(v)
 		}
 	}
 	return s
@@ -62,29 +66,29 @@ func (g graph) joined() set {
 // isFive reports whether the edges join each of five vertices to each other.
 func isFive(g graph) bool {
 	five := g.joined()
-	for v := range five.all() {
-		if g[v] != five&^only(v) {
+	for v := range five.All() {
+		if g[v] != five&^sets.Only(v) {
 			return false
 		}
 	}
-	return five.size() == 5
+	return five.Size() == 5
 }
 
 // isThreeByThree reports whether the edges join each of three vertices to each of three others.
 func isThreeByThree(g graph) bool {
 	six := g.joined()
-	if six.size() != 6 {
+	if six.Size() != 6 {
 		return false
 	}
-	side := g[six.least()]
-	for v := range six.all() {
+	side := g[six.Least()]
+	for v := range six.All() {
 		want := side
-		if side.has(v) {
+		if side.Has(v) {
 			want = six &^ side
 		}
 		if g[v] != want {
 			return false
 		}
 	}
-	return side.size() == 3
+	return side.Size() == 3
 }
